@@ -82,12 +82,14 @@ func wrongHosts(t *testing.T, s *store.Store) []wrong {
 	one, ring := made(t, s, "a/x", "1"), selfRing(t, s)
 	empty := put(t, s, api.Tree{Entries: []api.Entry{{Name: "a", Folder: true, Id: made(t, s)}}})
 	long := strings.TrimSuffix(strings.Repeat(strings.Repeat("l", 32)+"/", 6), "/")
+	part := put(t, s, api.Tree{Entries: []api.Entry{{Name: "a", Folder: true, Id: one}, {Name: "b", Id: missing}}})
 	a, deep := mapOf(t, keep("a")), mapOf(t, move("a", long))
 	return []wrong{
 		{"nothing", a, missing, api.ErrNone},
 		{"the id 0", a, 0, api.ErrNone},
 		{"a commit of nothing", a, commit(t, s, "of none", files{"a/x", "1"}, good, missing), api.ErrNone},
 		{"a tree that is not there", a, put(t, s, commitOf("no tree", missing, good)), api.ErrNone},
+		{"a blob that is not there, where nothing has an image", a, put(t, s, commitOf("no blob", part, good)), api.ErrNone},
 		{"a blob", a, put(t, s, api.Blob{Bytes: []byte("1")}), api.ErrKind},
 		{"a tree", a, one, api.ErrKind},
 		{"a commit of a tree", a, commit(t, s, "of a tree", files{"a/x", "1"}, good, one), api.ErrKind},
